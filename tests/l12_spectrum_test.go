@@ -795,22 +795,26 @@ func TestSpectrumIsNotModified(t *testing.T) {
 	}
 }
 
-// TestSpectraAreNewLists overwrites each result, with its unused capacity, and compares the other ones.
-func TestSpectraAreNewLists(t *testing.T) {
+// checkNewLists overwrites each result, with its unused capacity, and compares the other ones.
+func checkNewLists(t *testing.T, numbers func(*testing.T, impl.Table) []int) {
+	t.Helper()
 	for _, f := range sampleTables() {
-		for _, numbers := range []func(*testing.T, impl.Table) []int{spectrumOf, autocorrelationOf} {
-			first := numbers(t, f)
-			want := slices.Clone(first)
-			second := numbers(t, f)
-			first = first[:cap(first)]
-			for k := range first {
-				first[k] = 99
-			}
-			if third := numbers(t, f); !slices.Equal(second, want) || !slices.Equal(third, want) {
-				t.Fatalf("the numbers of %v are %v and %v, want %v", f, second, third, want)
-			}
+		first := numbers(t, f)
+		want := slices.Clone(first)
+		second := numbers(t, f)
+		first = first[:cap(first)]
+		for k := range first {
+			first[k] = 99
+		}
+		if third := numbers(t, f); !slices.Equal(second, want) || !slices.Equal(third, want) {
+			t.Fatalf("the numbers of %v are %v and %v, want %v", f, second, third, want)
 		}
 	}
+}
+
+func TestSpectraAreNewLists(t *testing.T) {
+	checkNewLists(t, spectrumOf)
+	checkNewLists(t, autocorrelationOf)
 }
 
 // TestSpectraAtTheSameTime calls the functions in several goroutines, in an order left to chance, and compares with what they return one after the other.
