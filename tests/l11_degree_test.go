@@ -31,14 +31,17 @@ func partsOf(n int) [][]int {
 	return l
 }
 
-// partsOfAll returns partsOf for each number of variables.
-func partsOfAll() [][][]int {
-	var l [][][]int
+// ofAll returns for each number of variables what it is asked for.
+func ofAll[L any](of func(n int) L) []L {
+	var l []L
 	for n := range impl.MaxBits + 1 {
-		l = append(l, partsOf(n))
+		l = append(l, of(n))
 	}
 	return l
 }
+
+// partsOfAll returns partsOf for each number of variables.
+func partsOfAll() [][][]int { return ofAll(partsOf) }
 
 // added returns for each set the sum of the list's numbers for its parts.
 func added(parts [][]int, l []int) []int {

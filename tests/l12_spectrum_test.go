@@ -27,13 +27,7 @@ func sumsOfVariables(n int) [][]int {
 }
 
 // sumsOfAll returns sumsOfVariables for each number of variables.
-func sumsOfAll() [][][]int {
-	var l [][][]int
-	for n := range impl.MaxBits + 1 {
-		l = append(l, sumsOfVariables(n))
-	}
-	return l
-}
+func sumsOfAll() [][][]int { return ofAll(sumsOfVariables) }
 
 // differences returns the number of places at which the lists differ.
 func differences(a, b []int) int {
