@@ -482,12 +482,24 @@ func TestDegreesOfNegations(t *testing.T) {
 	}
 }
 
+// pairOf is two tables of as many variables.
+type pairOf struct{ f, g impl.Table }
+
+// somePairs returns pairs of tables of n variables.
+func somePairs(n int) []pairOf {
+	l := tablesOf(n)
+	var pairs []pairOf
+	for k, f := range l {
+		pairs = append(pairs, pairOf{f: f, g: l[(7*k+3)%len(l)]})
+	}
+	return pairs
+}
+
 func TestAnfOfSums(t *testing.T) {
 	_, _, _, xor := algebra(t)
 	for n := range impl.MaxBits + 1 {
-		l := someTables(n)
-		for k, f := range l {
-			g := l[(7*k+3)%len(l)]
+		for _, p := range somePairs(n) {
+			f, g := p.f, p.g
 			if got, want := anfOf(t, xor(f, g)), xor(anfOf(t, f), anfOf(t, g)); got != want {
 				t.Fatalf("AnfOf of the sum of %v and %v = %v, want %v", f, g, got, want)
 			}

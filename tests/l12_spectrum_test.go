@@ -579,9 +579,8 @@ func TestSpectraOfPermutations(t *testing.T) {
 // TestSpectraOfJoinedTables has that sets without the new variable have the sums of the numbers of both tables, and those with it their differences.
 func TestSpectraOfJoinedTables(t *testing.T) {
 	for n := range impl.MaxBits {
-		l := tablesOf(n)
-		for k, f := range l {
-			g := l[(7*k+3)%len(l)]
+		for _, p := range somePairs(n) {
+			f, g := p.f, p.g
 			c, d := spectrumOf(t, f), spectrumOf(t, g)
 			for i := range n + 1 {
 				h := (tables{t}).join(f, g, i)

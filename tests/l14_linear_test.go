@@ -372,8 +372,8 @@ func TestDistanceBetweenAddsUp(t *testing.T) {
 	not, _, _, xor := algebra(t)
 	for n := range impl.MaxBits + 1 {
 		l := tablesOf(n)
-		for k, f := range l {
-			g, h := l[(7*k+3)%len(l)], l[(k*k+1)%len(l)]
+		for k, p := range somePairs(n) {
+			f, g, h := p.f, p.g, l[(k*k+1)%len(l)]
 			apart := impl.DistanceBetween(f, g)
 			if apart != impl.CountOnes(xor(f, g)) || apart+impl.DistanceBetween(f, not(g)) != 1<<n {
 				t.Fatalf("DistanceBetween(%v, %v) = %d, to the negation %d", f, g, apart, impl.DistanceBetween(f, not(g)))
