@@ -114,13 +114,18 @@ func hexDigitValue(r rune) int {
 	return -1
 }
 
+// isWithin asks for both signs in turn, since the least int has no magnitude.
+func isWithin(n int, limit int) bool {
+	return n >= -limit && n <= limit
+}
+
 func FormatInt(n int) string {
 	return strconv.Itoa(n)
 }
 
 func ParseInt(s string) (int, bool) {
 	n, err := strconv.Atoi(s)
-	if err != nil || n < -maxParsedInt || n > maxParsedInt {
+	if err != nil || !isWithin(n, maxParsedInt) {
 		return 0, false
 	}
 	// Formatting again rejects a plus sign, leading zeros and "-0".

@@ -810,25 +810,32 @@ func TestSpectraAreNewLists(t *testing.T) {
 	checkNewLists(t, autocorrelationOf)
 }
 
-// TestSpectraAtTheSameTime calls the functions in several goroutines, in an order left to chance, and compares with what they return one after the other.
+// checkAtTheSameTime asks in several goroutines, in an order left to chance, whether the results for each table are those of a call alone.
+func checkAtTheSameTime(t *testing.T, l []impl.Table, isSame func(k int) bool) {
+	t.Helper()
+	var callers sync.WaitGroup
+	for seed := range 8 {
+		callers.Go(func() {
+			for _, k := range rand.New(rand.NewSource(int64(seed))).Perm(len(l)) {
+				if !isSame(k) {
+					t.Errorf("the results for %v are others at the same time", l[k])
+				}
+			}
+		})
+	}
+	callers.Wait()
+}
+
 func TestSpectraAtTheSameTime(t *testing.T) {
 	l := append(someTables(4), someTables(5)...)
 	spectra, correlations := make([][]int, len(l)), make([][]int, len(l))
 	for k, f := range l {
 		spectra[k], correlations[k] = spectrumOf(t, f), autocorrelationOf(t, f)
 	}
-	var callers sync.WaitGroup
-	for seed := range 8 {
-		callers.Go(func() {
-			for _, k := range rand.New(rand.NewSource(int64(seed))).Perm(len(l)) {
-				got, ok := impl.TableOfSpectrum(spectra[k])
-				if !ok || got != l[k] || !slices.Equal(impl.SpectrumOf(l[k]), spectra[k]) || !slices.Equal(impl.AutocorrelationOf(l[k]), correlations[k]) {
-					t.Errorf("the numbers of %v are others at the same time", l[k])
-				}
-			}
-		})
-	}
-	callers.Wait()
+	checkAtTheSameTime(t, l, func(k int) bool {
+		got, ok := impl.TableOfSpectrum(spectra[k])
+		return ok && got == l[k] && slices.Equal(impl.SpectrumOf(l[k]), spectra[k]) && slices.Equal(impl.AutocorrelationOf(l[k]), correlations[k])
+	})
 }
 
 func TestSpectraRejectTables(t *testing.T) {

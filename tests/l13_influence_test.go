@@ -2,9 +2,7 @@ package tests
 
 import (
 	"math"
-	"math/rand"
 	"slices"
-	"sync"
 	"testing"
 
 	"loop.example/g03403/impl"
@@ -547,7 +545,6 @@ func TestInfluencesAreNewLists(t *testing.T) {
 	checkNewLists(t, pairsAt)
 }
 
-// TestInfluencesAtTheSameTime calls the functions in several goroutines, in an order left to chance, and compares with what is counted one after the other.
 func TestInfluencesAtTheSameTime(t *testing.T) {
 	l := append(someTables(4), someTables(5)...)
 	changes, pairs, energy := make([][]int, len(l)), make([][]int, len(l)), make([][]int, len(l))
@@ -555,17 +552,9 @@ func TestInfluencesAtTheSameTime(t *testing.T) {
 	for k, f := range l {
 		changes[k], pairs[k], energy[k] = changesOf(f), pairsBySize(f), squaresBySize(f.Bits, counted(f, sums[f.Bits]))
 	}
-	var callers sync.WaitGroup
-	for seed := range 8 {
-		callers.Go(func() {
-			for _, k := range rand.New(rand.NewSource(int64(seed))).Perm(len(l)) {
-				if !slices.Equal(impl.PairsAtDistance(l[k]), pairs[k]) || !slices.Equal(impl.EnergyByLevel(l[k]), energy[k]) || impl.TotalInfluence(l[k]) != sum(changes[k]) {
-					t.Errorf("the numbers of %v are others at the same time", l[k])
-				}
-			}
-		})
-	}
-	callers.Wait()
+	checkAtTheSameTime(t, l, func(k int) bool {
+		return slices.Equal(impl.PairsAtDistance(l[k]), pairs[k]) && slices.Equal(impl.EnergyByLevel(l[k]), energy[k]) && impl.TotalInfluence(l[k]) == sum(changes[k])
+	})
 }
 
 // TestPairsAtDistanceCountsAllPairs calls the function many times for tables with the most pairs, so that it would show if goroutines lost some of them.

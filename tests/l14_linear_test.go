@@ -2,10 +2,8 @@ package tests
 
 import (
 	"math"
-	"math/rand"
 	"slices"
 	"strings"
-	"sync"
 	"testing"
 
 	"loop.example/g03403/impl"
@@ -693,26 +691,17 @@ func TestLinearStructuresAreNewLists(t *testing.T) {
 	checkNewLists(t, linearStructures)
 }
 
-// TestAffineFunctionsAtTheSameTime calls the functions in several goroutines, in an order left to chance, and compares with what they return one after the other.
 func TestAffineFunctionsAtTheSameTime(t *testing.T) {
 	l := append(someTables(4), nearAffine(5)[:200]...)
 	nearest, structures, rejects := make([][3]int, len(l)), make([][]int, len(l)), make([]int, len(l))
 	for k, f := range l {
 		nearest[k], structures[k], rejects[k] = nearestAffine(t, f), linearStructures(t, f), impl.TestRejects(f)
 	}
-	var callers sync.WaitGroup
-	for seed := range 8 {
-		callers.Go(func() {
-			for _, k := range rand.New(rand.NewSource(int64(seed))).Perm(len(l)) {
-				u, b, distance, _ := impl.NearestAffine(l[k])
-				got, _ := impl.LinearStructures(l[k])
-				if [3]int{u, b, distance} != nearest[k] || !slices.Equal(got, structures[k]) || impl.TestRejects(l[k]) != rejects[k] {
-					t.Errorf("the results for %v are others at the same time", l[k])
-				}
-			}
-		})
-	}
-	callers.Wait()
+	checkAtTheSameTime(t, l, func(k int) bool {
+		u, b, distance, _ := impl.NearestAffine(l[k])
+		got, _ := impl.LinearStructures(l[k])
+		return [3]int{u, b, distance} == nearest[k] && slices.Equal(got, structures[k]) && impl.TestRejects(l[k]) == rejects[k]
+	})
 }
 
 func checkNoAffine(t *testing.T, n, u, b int) {

@@ -4,7 +4,6 @@ import (
 	"math"
 	"math/rand"
 	"slices"
-	"sync"
 	"testing"
 
 	"loop.example/g03403/impl"
@@ -355,18 +354,29 @@ func TestIsSelfDualOfFive(t *testing.T) {
 	}
 }
 
-func TestCountMonotoneCountsTables(t *testing.T) {
-	for n := range impl.MaxBits {
-		want := 0
+// checkCount compares the numbers with the tables for which holds is true, and with the count for as many variables; for any more or less there is none.
+func checkCount(t *testing.T, count func(n int) int, holds func(f impl.Table) bool, numbers []int) {
+	t.Helper()
+	for n, number := range numbers {
+		held := 0
 		for _, f := range allTables(n) {
-			if impl.IsMonotone(f) {
-				want++
+			if holds(f) {
+				held++
 			}
 		}
-		if got := impl.CountMonotone(n); got != want || got != numberOfMonotone[n] {
-			t.Errorf("CountMonotone(%d) = %d, want %d", n, got, want)
+		if got := count(n); got != number || held != number {
+			t.Errorf("the count of %d variables is %d, and %d tables hold, want %d", n, got, held, number)
 		}
 	}
+	for _, n := range append(farNumbers(), variablesAround(len(numbers))...) {
+		if got := count(n); got != -1 {
+			t.Errorf("the count of %d variables is %d", n, got)
+		}
+	}
+}
+
+func TestCountMonotoneCountsTables(t *testing.T) {
+	checkCount(t, impl.CountMonotone, impl.IsMonotone, numberOfMonotone[:5])
 }
 
 func TestMonotoneHullIsAbovePoints(t *testing.T) {
@@ -662,29 +672,17 @@ func TestTableOfPointsKeepsList(t *testing.T) {
 	}
 }
 
-// TestMonotoneFunctionsAtTheSameTime calls the functions in several goroutines, in an order left to chance, and compares with what they return one after the other.
 func TestMonotoneFunctionsAtTheSameTime(t *testing.T) {
 	l := slices.Concat(someTables(4), someTables(5), monotoneTables(5)[3000:3100])
 	hulls, points := make([]impl.Table, len(l)), make([][]int, len(l))
 	for k, f := range l {
 		hulls[k], points[k] = monotoneHull(t, f), impl.MinimalPoints(f)
 	}
-	var callers sync.WaitGroup
-	for seed := range 8 {
-		callers.Go(func() {
-			for _, k := range rand.New(rand.NewSource(int64(seed))).Perm(len(l)) {
-				hull, _ := impl.MonotoneHull(l[k])
-				given, _ := impl.TableOfPoints(l[k].Bits, points[k])
-				if hull != hulls[k] || given != hulls[k] || !slices.Equal(impl.MinimalPoints(l[k]), points[k]) {
-					t.Errorf("the results for %v are others at the same time", l[k])
-				}
-			}
-			if impl.CountMonotone(3) != 20 {
-				t.Errorf("CountMonotone(3) is another number at the same time")
-			}
-		})
-	}
-	callers.Wait()
+	checkAtTheSameTime(t, l, func(k int) bool {
+		hull, _ := impl.MonotoneHull(l[k])
+		given, _ := impl.TableOfPoints(l[k].Bits, points[k])
+		return hull == hulls[k] && given == hulls[k] && slices.Equal(impl.MinimalPoints(l[k]), points[k]) && impl.CountMonotone(2) == 6
+	})
 }
 
 func TestMonotoneFunctionsRejectTables(t *testing.T) {
@@ -700,14 +698,6 @@ func TestMonotoneFunctionsRejectTables(t *testing.T) {
 		}
 		if g, ok := impl.MonotoneHull(f); ok || g != (impl.Table{}) {
 			t.Errorf("MonotoneHull(%v) = %v, %v", f, g, ok)
-		}
-	}
-}
-
-func TestCountMonotoneRejectsBits(t *testing.T) {
-	for _, n := range append(farNumbers(), append(variablesAround(5), -1, -2, -4, -5, 5, 6)...) {
-		if got := impl.CountMonotone(n); got != -1 {
-			t.Errorf("CountMonotone(%d) = %d", n, got)
 		}
 	}
 }
